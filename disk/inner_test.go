@@ -3,6 +3,7 @@ package disk
 import (
 	"bytes"
 	"errors"
+	"math"
 	"math/rand"
 	"slices"
 	"testing"
@@ -266,6 +267,81 @@ func TestBlankPagesAtRest(t *testing.T) {
 			if blank := countBlank(blocks, d.geometry.Pages); blank < least {
 				t.Fatalf("%d pages are blank, want %d", blank, least)
 			}
+		}
+	}
+}
+
+// D5: a chip has no bound on how often a block is worn. A disk that sees its blocks worn more than sweep takes (W1: 10^9) makes room, and of the same blocks as one beside it that sees them as they are. (To wear a block so often in truth takes far too long.)
+func TestWornBeyondAllBounds(t *testing.T) {
+	const sweepBound = 1_000_000_000
+	for _, more := range []func(int) int{
+		func(wear int) int { return wear + sweepBound },
+		func(wear int) int { return wear + sweepBound + 1 },
+		func(wear int) int { return wear * sweepBound },
+		func(wear int) int { return wear + wear/3*5*sweepBound },
+		func(wear int) int { return math.MaxInt - 1<<20 + wear },
+	} {
+		worn := plans(t)
+		for i, d := range plans(t) {
+			random := rand.New(rand.NewSource(int64(i)))
+			d.Fails(d.spare)
+			worn[i].Fails(d.spare)
+			for range 400 {
+				lba, data := random.Intn(d.lbas), make([]byte, d.Size())
+				random.Read(data)
+				for _, do := range []func(*Disk) error{
+					func(d *Disk) error { return d.Write(lba, data) },
+					(*Disk).Flush,
+					func(d *Disk) error { return d.Trim((lba + 1) % d.lbas) },
+				} {
+					makeRoomWorn(t, worn[i], more)
+					if err, wornErr := do(d), do(worn[i]); err != nil || wornErr != nil {
+						t.Fatalf("told %v, worn %v", err, wornErr)
+					}
+				}
+				if !snap(t, d).equals(snap(t, worn[i])) {
+					t.Fatalf("other blocks are emptied where they are worn more")
+				}
+			}
+			if !slices.EqualFunc(readAll(t, d), readAll(t, worn[i]), bytes.Equal) {
+				t.Errorf("it reads otherwise where blocks are worn more")
+			}
+		}
+	}
+}
+
+// makeRoomWorn makes room as makeRoom does, where the blocks are seen as worn more. The call behind it finds it made.
+func makeRoomWorn(t *testing.T, d *Disk, more func(int) int) {
+	t.Helper()
+	for {
+		blocks := snap(t, d).blocks
+		if !d.isShort(blocks) {
+			return
+		}
+		for i := range blocks {
+			blocks[i].wear = more(blocks[i].wear)
+		}
+		if err := d.emptyOne(blocks); err != nil {
+			t.Fatalf("to empty one of %v: %v", blocks, err)
+		}
+	}
+}
+
+func TestWearRanks(t *testing.T) {
+	for _, c := range []struct{ wears, want []int }{
+		{nil, nil},
+		{[]int{9}, []int{0}},
+		{[]int{0, 0, 0}, []int{0, 0, 0}},
+		{[]int{3, 1, 2}, []int{2, 0, 1}},
+		{[]int{5, 5, 0, 7, 5}, []int{1, 1, 0, 4, 1}},
+		{[]int{math.MaxInt, 1_000_000_001, 1_000_000_000, math.MaxInt - 1}, []int{3, 1, 0, 2}},
+	} {
+		blocks := make([]block, len(c.wears))
+		for i, wear := range c.wears {
+			blocks[i].wear = wear
+		}
+		if got := wearRanks(blocks); !slices.Equal(got, c.want) {
+			t.Errorf("wearRanks of %v: %v, want %v", c.wears, got, c.want)
 		}
 	}
 }

@@ -2,6 +2,7 @@ package disk
 
 import (
 	"errors"
+	"slices"
 
 	"granary/api"
 	"granary/frame"
@@ -160,13 +161,18 @@ func (d *Disk) makeRoom() error {
 		if err != nil {
 			return err
 		}
-		if countBlank(blocks, d.geometry.Pages) >= (d.spare-d.bad+blankBlocks)*d.geometry.Pages {
+		if !d.isShort(blocks) {
 			return nil
 		}
 		if err := d.emptyOne(blocks); err != nil {
 			return err
 		}
 	}
+}
+
+// isShort tells whether fewer pages are blank than have to be ahead of a write.
+func (d *Disk) isShort(blocks []block) bool {
+	return countBlank(blocks, d.geometry.Pages) < (d.spare-d.bad+blankBlocks)*d.geometry.Pages
 }
 
 func countBlank(blocks []block, pages int) int {
@@ -183,12 +189,13 @@ func countBlank(blocks []block, pages int) int {
 func (d *Disk) emptyOne(blocks []block) error {
 	pages := d.geometry.Pages
 	told := make([]sweep.Block, len(blocks))
+	ranks := wearRanks(blocks)
 	for i, b := range blocks {
 		live, err := d.book.Live(i*pages, (i+1)*pages)
 		if err != nil {
 			return err
 		}
-		told[i] = sweep.Block{Used: !b.bad && b.next == pages, Live: live, Wear: b.wear}
+		told[i] = sweep.Block{Used: !b.bad && b.next == pages, Live: live, Wear: ranks[i]}
 	}
 	number, err := sweep.Choose(told, pages)
 	if err != nil {
@@ -200,6 +207,20 @@ func (d *Disk) emptyOne(blocks []block) error {
 		}
 	}
 	return d.erase(number)
+}
+
+// wearRanks tells of each block how many are worn less. A chip has no bound on how often a block is worn, nor has a disk then; sweep has one. Which of two is worn less is all that it asks here, and that the ranks tell as well.
+func wearRanks(blocks []block) []int {
+	wears := make([]int, len(blocks))
+	for i, b := range blocks {
+		wears[i] = b.wear
+	}
+	slices.Sort(wears)
+	ranks := make([]int, len(blocks))
+	for i, b := range blocks {
+		ranks[i], _ = slices.BinarySearch(wears, b.wear)
+	}
+	return ranks
 }
 
 // moveFrom writes what is live at a place elsewhere.
