@@ -69,6 +69,16 @@ func wantPut(t *testing.T, name string, p *ring.Post, slot int, phase bool, want
 	}
 }
 
+// wantFull asks whether a post is full, more than once, as to ask changes nothing.
+func wantFull(t *testing.T, name string, p *ring.Post, want bool) {
+	t.Helper()
+	for range 2 {
+		if got := p.Full(); got != want {
+			t.Errorf("%s: Full: got %v, want %v", name, got, want)
+		}
+	}
+}
+
 // wantTake asks what a seer takes, and that it does not write into the phases, nor behind them.
 func wantTake(t *testing.T, name string, s *ring.Seer, phases []bool, slots []int, want api.Errno) {
 	t.Helper()
@@ -189,6 +199,7 @@ func newPosts(t *testing.T, n int) *posts {
 func (p *posts) put(t *testing.T, name string) bool {
 	t.Helper()
 	slot, phase, want := p.like.take()
+	wantFull(t, fmt.Sprintf("%s: %+v", name, p.like), p.Post, want == api.ErrFull)
 	wantPut(t, fmt.Sprintf("%s: %+v", name, p.like), p.Post, slot, phase, want)
 	return want == api.OK
 }
@@ -612,6 +623,24 @@ func TestFullPostIsChangedByNoPut(t *testing.T) {
 			p.filled(t, name+": goes on where it was")
 		}
 	}
+}
+
+// TestFullPost asks ahead of each put whether there is room for it, and behind each head that is told.
+func TestFullPost(t *testing.T) {
+	p := made(t, ring.NewPost, 3)
+	wantFull(t, "nothing was put", p, false)
+	wantPut(t, "the first", p, 0, true, api.OK)
+	wantFull(t, "one was put", p, false)
+	wantPut(t, "the second", p, 1, true, api.OK)
+	wantFull(t, "two were put", p, true)
+	wantErr(t, "no such slot", p.Free(3), api.ErrRange)
+	wantFull(t, "no head was told", p, true)
+	wantErr(t, "one was read", p.Free(1), api.OK)
+	wantFull(t, "one was read", p, false)
+	wantPut(t, "the third", p, 2, true, api.OK)
+	wantFull(t, "the slot behind it is the head", p, true)
+	wantErr(t, "a head where no reader can be", p.Free(2), api.OK)
+	wantFull(t, "a head where no reader can be", p, false)
 }
 
 // TestEverySequenceOfAPost has puts, and each head, the two that there are not among them.

@@ -20,7 +20,7 @@ func newRound[T any](n int) (round[T], error) {
 
 // push lets a value stand at the tail.
 func (r *round[T]) push(value T) error {
-	if r.behind(r.tail) == r.head {
+	if r.isFull() {
 		return api.ErrFull
 	}
 	r.slots[r.tail] = value
@@ -39,6 +39,11 @@ func (r *round[T]) pop() (T, error) {
 	r.slots[r.head] = none
 	r.head = r.behind(r.head)
 	return value, nil
+}
+
+// isFull tells whether there is no room for a value more.
+func (r *round[T]) isFull() bool {
+	return r.behind(r.tail) == r.head
 }
 
 // count tells how many values there are.
