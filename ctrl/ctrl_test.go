@@ -10,6 +10,8 @@ import (
 	"granary/api"
 	"granary/cmd"
 	"granary/ctrl"
+	"granary/disk"
+	"granary/list"
 	"granary/plain"
 )
 
@@ -129,6 +131,46 @@ func TestT1MemoryIsNotShared(t *testing.T) {
 	got[1] = 9
 	if again, _ := c.Peek(0, 3); !slices.Equal(again, []byte{1, 2, 0}) || !slices.Equal(data, []byte{9, 2, 3, 4}) {
 		t.Errorf("the memory is %v, what was handed in %v", again, data)
+	}
+}
+
+// Size is the disk's, of each disk that can be.
+func TestT1Size(t *testing.T) {
+	for bytes := 24; bytes <= 256; bytes += 8 {
+		g := geometry(1, 6, 2, bytes)
+		d, err := disk.New(g, 2, 0)
+		if err != nil {
+			t.Fatal(err)
+		}
+		if got := made(t, 0, plan{g, 2, 0}).Size(); got != d.Size() {
+			t.Errorf("pages of %d bytes: Size %d, of the disk %d", bytes, got, d.Size())
+		}
+	}
+}
+
+// Build does to the memory what list's Build does to one of as many bytes, and answers the same.
+func TestT1Build(t *testing.T) {
+	const n = 1024
+	for long := 0; long <= n; long += 32 {
+		for _, at := range []int{0, 8, 64, 960, n, -64, math.MaxInt} {
+			for _, offset := range []int{0, 4, 2, 64} {
+				var pages []int
+				for page := 64; page < 64+offset+long; page += 64 {
+					pages = append(pages, page)
+				}
+				c, m := made(t, n, tiny()), memoryOf(t, make([]byte, n))
+				first, second, err := c.Build(at, pages, offset, long)
+				wantFirst, wantSecond, wantErr := list.Build(m, at, pages, offset, long)
+				if first != wantFirst || second != wantSecond || plain.Told(err) != plain.Told(wantErr) {
+					t.Errorf("Build(%d, %v, %d, %d): got %d, %d, %v, want %d, %d, %v", at, pages, offset, long, first, second, err, wantFirst, wantSecond, wantErr)
+				}
+				got, err := c.Peek(0, n)
+				want, _ := m.Read(0, n)
+				if err != nil || !bytes.Equal(got, want) {
+					t.Errorf("Build(%d, %v, %d, %d): the memory is another", at, pages, offset, long)
+				}
+			}
+		}
 	}
 }
 
